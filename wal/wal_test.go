@@ -2,7 +2,6 @@ package wal
 
 import (
 	"bytes"
-	"errors"
 	"fmt"
 	"math"
 	"math/rand"
@@ -889,16 +888,4 @@ func TestNoLog(t *testing.T) {
 	l := &Log{}
 	checkDead(t, "no log", l)
 	check(t, "P1002", "File", l.File(), 0)
-}
-
-// TestTold: nothing but the disk's error is taken for one.
-func TestTold(t *testing.T) {
-	check(t, "P1002", "an error of the disk", told(failure{api.ErrIO}), api.ErrIO)
-	check(t, "P1002", "its text", failure{api.ErrIO}.Error(), "error 10 of the disk")
-	for _, thrown := range []any{errors.New("another"), "a text", api.ErrIO} {
-		func() {
-			defer func() { check(t, "P1002", "goes on", recover(), thrown) }()
-			told(thrown)
-		}()
-	}
 }
